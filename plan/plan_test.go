@@ -189,13 +189,6 @@ func TestReserveNothing(t *testing.T) {
 	reserved(t, plan.Profile{nil, {}}, at(2, 0, 0), 4, plan.Profile{{}, {}})
 }
 
-// TestReserveTimesBeyondTheirBounds: the answer has the times as they are taken.
-func TestReserveTimesBeyondTheirBounds(t *testing.T) {
-	p := plan.Profile{{-5, math.MinInt, 3}, {cap.Top + 1, math.MaxInt, cap.Top}}
-	reserved(t, p, at(2, 0, 1), 4, plan.Profile{{0, 6, 3}, {cap.Top, cap.Top, cap.Top}})
-	reserved(t, p, none(), 4, plan.Profile{{0, 0, 3}, {cap.Top, cap.Top, cap.Top}})
-}
-
 // TestRowsThatShare: rows of one list are apart in what is told of them.
 func TestRowsThatShare(t *testing.T) {
 	cells := []int{0, 0}

@@ -6,20 +6,26 @@ import (
 	"quadrille/cap"
 )
 
-// taken answers a profile of its own, all times of which are within their bounds.
-func taken(p Profile) Profile {
+// copied answers the profile in memory of its own.
+func copied(p Profile) Profile {
 	own := make(Profile, len(p))
 	for row, cells := range p {
 		own[row] = make([]int, len(cells))
-		for node, time := range cells {
-			own[row][node] = bounded(time)
-		}
+		copy(own[row], cells)
 	}
 	return own
 }
 
-// bounded answers the time that one is taken as.
-func bounded(time int) int { return cap.Keep(time, 0, cap.Top) }
+// taken answers a profile of its own, all times of which are within their bounds.
+func taken(p Profile) Profile {
+	own := copied(p)
+	for _, cells := range own {
+		for node, time := range cells {
+			cells[node] = cap.Keep(time, 0, cap.Top)
+		}
+	}
+	return own
+}
 
 // first answers when and where an ask of k nodes starts.
 func (p Profile) first(k int) Start {
